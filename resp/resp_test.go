@@ -47,15 +47,12 @@ func lineAt(s string) (string, api.Errno) {
 
 // argumentAt is the argument at s's front, and how many bytes it takes up: 0, if it is not all there.
 func argumentAt(s string) (string, int, api.Errno) {
-	line, e := lineAt(s)
-	if e != api.OK {
-		return "", 0, e
-	}
 	if s != "" && s[0] != '$' {
 		return "", 0, api.ErrRespDollar
 	}
-	if line == "" {
-		return "", 0, api.OK
+	line, e := lineAt(s)
+	if e != api.OK || line == "" {
+		return "", 0, e
 	}
 	size, ok := numberIn(sizeLine, line, 1024)
 	if !ok {
@@ -243,7 +240,7 @@ func streams() []string {
 		x511 + "\n" + x510 + "\r\n" + x511 + "x\n",
 		"*" + strings.Repeat("1", 511), "*" + strings.Repeat("1", 510) + "\n",
 		"*1\r\n$" + strings.Repeat("1", 511), "*1\r\n$" + strings.Repeat("1", 510) + "\n",
-		"*1\r\n+" + x511,
+		"*1\r\n+" + x511, "*2\r\n$1\r\na\r\nb" + x511 + x511, "*1\r\n*" + x511 + "\n",
 	}
 }
 
@@ -473,16 +470,64 @@ func TestErrorBehindCommands(t *testing.T) {
 	checkFault(t, p, s, api.ErrRespCount)
 }
 
-func TestLineAheadOfDollar(t *testing.T) {
-	for _, s := range []string{"*1\r\n" + strings.Repeat("x", 512), "*1\r\n" + strings.Repeat("x", 600) + "\n", "*2\r\n$1\r\na\r\n*" + x511} {
-		p := New()
-		p.Feed([]byte(s))
-		checkFault(t, p, s, api.ErrRespLine)
+func TestDollarAheadOfLine(t *testing.T) {
+	for _, ahead := range []string{"*1\r\n", "*2\r\n$1\r\na\r\n", "ping\n*32\r\n"} {
+		for _, first := range []string{"+", "*", "b", "\r", "\n", " ", "\x00", "\xff"} {
+			for _, more := range []string{"", x510, x511, x511 + "x", x511 + x511, x510 + "\n", x511 + "\n", x511 + "x\n"} {
+				checkPieces(t, ahead+first+more, api.ErrRespDollar)
+			}
+		}
+		for _, more := range []string{x511, strings.Repeat("1", 511), x511 + "x", x511 + "\n"} {
+			checkPieces(t, ahead+"$"+more, api.ErrRespLine)
+		}
+		checkPieces(t, ahead+"$"+x510, api.OK)
+		checkPieces(t, ahead+"$"+x510+"\n", api.ErrRespBulk)
 	}
-	for _, s := range []string{"*1\r\n" + x511, "*1\r\n" + x511 + "\n", "*1\r\n\n" + x511 + "x"} {
-		p := New()
-		p.Feed([]byte(s))
-		checkFault(t, p, s, api.ErrRespDollar)
+}
+
+// checkPieces sees that the stream's error is the same, fed at once, cut at every place, and byte by byte, asked behind each piece or not.
+func checkPieces(t *testing.T, s string, want api.Errno) {
+	t.Helper()
+	whole, e := all(s)
+	if e != want {
+		t.Fatalf("P3.2: %.60q of %d bytes: %d, want %d", s, len(s), e, want)
+	}
+	for i := range len(s) + 1 {
+		samePieces(t, []string{s[:i], s[i:]}, whole, want)
+	}
+	samePieces(t, bytesOf(s), whole, want)
+}
+
+// bytesOf are pieces of one byte each.
+func bytesOf(s string) []string {
+	var pieces []string
+	for i := range len(s) {
+		pieces = append(pieces, s[i:i+1])
+	}
+	return pieces
+}
+
+// samePieces feeds the pieces to two parsers, of which one is asked behind each piece, the other behind the last alone.
+func samePieces(t *testing.T, pieces []string, want [][]string, e api.Errno) {
+	t.Helper()
+	asked, silent := New(), New()
+	var got [][]string
+	var f api.Errno
+	for _, piece := range pieces {
+		asked.Feed([]byte(piece))
+		silent.Feed([]byte(piece))
+		var l [][]string
+		l, f = rest(asked)
+		got = append(got, l...)
+	}
+	if !same(got, want) || f != e {
+		t.Fatalf("P3.5: %.60q in %d pieces, asked behind each: %.60q, %d; want %.60q, %d", strings.Join(pieces, ""), len(pieces), got, f, want, e)
+	}
+	if got, f = rest(silent); !same(got, want) || f != e {
+		t.Fatalf("P3.5: %.60q in %d pieces: %.60q, %d; want %.60q, %d", strings.Join(pieces, ""), len(pieces), got, f, want, e)
+	}
+	if asked.Left() != silent.Left() {
+		t.Fatalf("P3.5: %.60q in %d pieces: %d left, asked behind each; else %d", strings.Join(pieces, ""), len(pieces), asked.Left(), silent.Left())
 	}
 }
 
@@ -612,6 +657,8 @@ func TestAllShortStreams(t *testing.T) {
 			b := newBoth()
 			b.feed(string(s))
 			b.drain(t)
+			whole, e := all(string(s))
+			samePieces(t, bytesOf(string(s)), whole, e)
 			more = false
 			for i := 0; i < n && !more; i++ {
 				at[i] = (at[i] + 1) % len(alphabet)
@@ -623,14 +670,9 @@ func TestAllShortStreams(t *testing.T) {
 
 func TestCutAtEveryPlace(t *testing.T) {
 	for _, s := range streams() {
-		whole, e := all(s)
+		_, e := all(s)
+		checkPieces(t, s, e)
 		for i := range len(s) + 1 {
-			p := New()
-			p.Feed([]byte(s[:i]))
-			p.Feed([]byte(s[i:]))
-			if got, f := rest(p); !same(got, whole) || f != e {
-				t.Fatalf("P3.5: %.60q cut at %d: %.60q, %d; want %.60q, %d", s, i, got, f, whole, e)
-			}
 			b := newBoth()
 			b.feed(s[:i])
 			b.drain(t)
@@ -648,15 +690,12 @@ func TestCutAtTwoPlaces(t *testing.T) {
 		whole, e := all(s)
 		for i := range len(s) + 1 {
 			for j := i; j <= len(s); j++ {
-				p := New()
+				pieces := []string{s[:i], s[i:j], s[j:]}
+				samePieces(t, pieces, whole, e)
 				b := newBoth()
-				for _, piece := range []string{s[:i], s[i:j], s[j:]} {
-					p.Feed([]byte(piece))
+				for _, piece := range pieces {
 					b.feed(piece)
 					b.drain(t)
-				}
-				if got, f := rest(p); !same(got, whole) || f != e {
-					t.Fatalf("P3.5: %q cut at %d and %d: %q, %d; want %q, %d", s, i, j, got, f, whole, e)
 				}
 			}
 		}
@@ -664,33 +703,14 @@ func TestCutAtTwoPlaces(t *testing.T) {
 }
 
 func TestByteByByte(t *testing.T) {
-	for _, s := range append(streams(), Command(most())+"ping\n") {
-		whole, e := all(s)
-		p := New()
-		for i := range len(s) {
-			p.Feed([]byte{s[i]})
-		}
-		if got, f := rest(p); !same(got, whole) || f != e {
-			t.Errorf("P3.5: %.60q byte by byte: %.60q, %d; want %.60q, %d", s, got, f, whole, e)
-		}
-		p = New()
-		var got [][]string
-		var f api.Errno
-		for i := range len(s) {
-			p.Feed([]byte{s[i]})
-			l, e := rest(p)
-			got, f = append(got, l...), e
-		}
-		// Of a line that is too long and begins without $, the $ is missed first if it is asked for first.
-		if early := f == api.ErrRespDollar && e == api.ErrRespLine; !same(got, whole) || f != e && !early {
-			t.Errorf("P3.5: %.60q, asked at each byte: %.60q, %d; want %.60q, %d", s, got, f, whole, e)
-		}
-	}
+	s := Command(most()) + "ping\n"
+	whole, e := all(s)
+	samePieces(t, bytesOf(s), whole, e)
 }
 
 // someStream is a row of commands, mostly right, some with a wrong byte.
 func someStream(next func() uint32) string {
-	pieces := []string{"\n", "\r\n", "*0\r\n", "ping\n", " get\t a\r\n", "*1\r\n", "$1\r\n", "a\r\n", "$0\r\n\r\n", "*2\r\n$1\r\na\r\n$2\r\nbb\r\n"}
+	pieces := []string{"\n", "\r\n", "*0\r\n", "ping\n", " get\t a\r\n", "*1\r\n", "$1\r\n", "a\r\n", "$0\r\n\r\n", "*2\r\n$1\r\na\r\n$2\r\nbb\r\n", x510, "*1\r\n$" + x511}
 	var s []byte
 	for range next() % 8 {
 		switch next() % 3 {
@@ -712,11 +732,13 @@ func someStream(next func() uint32) string {
 
 func TestManyStreamsInPieces(t *testing.T) {
 	next := chance(3)
-	for range 3000 {
+	for range 1000 {
 		b := newBoth()
+		var pieces []string
 		for range 1 + next()%4 {
 			for s := someStream(next); s != ""; {
 				n := min(len(s), 1+int(next()%30))
+				pieces = append(pieces, s[:n])
 				b.feed(s[:n])
 				s = s[n:]
 				b.left(t)
@@ -726,6 +748,8 @@ func TestManyStreamsInPieces(t *testing.T) {
 			}
 		}
 		b.drain(t)
+		whole, e := all(strings.Join(pieces, ""))
+		samePieces(t, pieces, whole, e)
 	}
 }
 

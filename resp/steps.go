@@ -30,15 +30,12 @@ func cutLine(b []byte) (line, rest []byte, e api.Errno) {
 	return line, rest, api.OK
 }
 
-// cutSize looks for a line that is too long ahead of the $: that error is named first.
+// cutSize looks at the first byte ahead of the line: it says that there is no $ before later bytes can say that the line is too long.
 func cutSize(b []byte) (size int, rest []byte, e api.Errno) {
-	line, rest, e := cutLine(b)
-	if e == api.ErrRespLine {
-		return 0, b, e
-	}
 	if len(b) > 0 && b[0] != '$' {
 		return 0, b, api.ErrRespDollar
 	}
+	line, rest, e := cutLine(b)
 	if e != api.OK {
 		return 0, b, e
 	}
